@@ -508,6 +508,28 @@ func TestRegistersReadNoRoom(t *testing.T) {
 	}
 }
 
+// sharesNone: what is done to one list of an answer shows in no other list of it, and in no other answer.
+func sharesNone(t *testing.T, name string, ask func() []impl.Write) {
+	t.Helper()
+	want := ask()
+	if len(want) < 2 {
+		t.Fatalf("%s: too few to tell: %v", name, want)
+	}
+	for i := range want {
+		got := ask()
+		kept := wholeOf(got)
+		spoil(got[i : i+1 : i+1])
+		for j := range got {
+			if j != i && !sameWrite(got[j], want[j]) {
+				t.Errorf("%s: lists %d and %d of the answer share memory", name, i, j)
+			}
+		}
+		if !sameList(wholeOf(ask())[:len(want)], kept[:len(want)]) {
+			t.Errorf("%s: two answers share memory", name)
+		}
+	}
+}
+
 // TestRegistersShareNoLists: where arguments share their Deps, the lists of an answer don't, nor do those of two answers.
 func TestRegistersShareNoLists(t *testing.T) {
 	deps := []impl.Dep{dep(0, 1, 0, 1), dep(1, 1, 0, 1)}
@@ -519,19 +541,6 @@ func TestRegistersShareNoLists(t *testing.T) {
 		"join":         func() []impl.Write { return impl.MapJoin(m, []impl.Write{w}) },
 		"join of self": func() []impl.Write { return impl.MapJoin(m, m) },
 	} {
-		want := ask()
-		for i := range want {
-			got := ask()
-			kept := wholeOf(got)
-			spoil(got[i : i+1 : i+1])
-			for j := range got {
-				if j != i && !sameWrite(got[j], want[j]) {
-					t.Errorf("%s: lists %d and %d of the answer share memory", name, i, j)
-				}
-			}
-			if !sameList(wholeOf(ask())[:len(want)], kept[:len(want)]) {
-				t.Errorf("%s: two answers share memory", name)
-			}
-		}
+		sharesNone(t, name, ask)
 	}
 }
