@@ -1002,7 +1002,8 @@ func TestRunSameEachTime(t *testing.T) {
 	for range 30 {
 		checkRun(t, 4, 3, acts)
 	}
-	for range 1000 {
+	// One that is joined may still be on its last step; so it is asked often ahead of a fault.
+	for range 1000000 {
 		if runtime.NumGoroutine() <= ahead {
 			return
 		}
